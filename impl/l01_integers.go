@@ -52,12 +52,17 @@ func ParseInt(s string) (int, bool) {
 	return -n, ok && n != 0
 }
 
-// parseDigits returns the integer with 1 to most digits whose FormatInt is s. With at most 18 digits it cannot overflow.
+// parseDigits returns the integer with 1 to most digits whose FormatInt is s.
 func parseDigits(s string, most int) (int, bool) {
-	if s == "" || len(s) > most {
+	if strings.HasPrefix(s, "0") && s != "0" {
 		return 0, false
 	}
-	if s[0] == '0' && s != "0" {
+	return digitsValue(s, most)
+}
+
+// digitsValue returns the integer that 1 to most decimal digits denote, with or without leading zeros. With at most 18 digits it cannot overflow.
+func digitsValue(s string, most int) (int, bool) {
+	if s == "" || len(s) > most {
 		return 0, false
 	}
 	n := 0
